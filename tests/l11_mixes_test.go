@@ -866,13 +866,18 @@ func TestPromise48AllOrdersOfArrival(t *testing.T) {
 	}
 }
 
-// The packets have numbers of all ranges, and often the same ones.
-func TestPromise48ManyPools(t *testing.T) {
+// chosen has a number below a limit at each call, in an order that looks random but is always the same.
+func chosen() func(below int) int {
 	number := 1
-	next := func(below int) int {
+	return func(below int) int {
 		number = number * 48271 % 2147483647
 		return number / 7 % below
 	}
+}
+
+// The packets have numbers of all ranges, and often the same ones.
+func TestPromise48ManyPools(t *testing.T) {
+	next := chosen()
 	for round := range 20000 {
 		elements, tags := []int{1, 3, lastElement}[round%3], []int{1, 2, impl.Numbers}[round/3%3]
 		var pool []impl.Peeled
