@@ -835,25 +835,25 @@ func layOut(c impl.Cache) laidOutCache {
 	return l
 }
 
-// spoilCache overwrites all slots of a cache up to their capacity, each with a mark of its own, and then the cache. It
-// fails if a slot does not keep its mark, since another one shares its memory.
-func spoilCache(t *testing.T, name string, c impl.Cache) {
+// spoilLists overwrites all lists of a result up to their capacity, each with a mark of its own, and then the result. It
+// fails if a list does not keep its mark, since another one shares its memory.
+func spoilLists(t *testing.T, name string, lists [][]int) {
 	t.Helper()
-	for place, slot := range c.Slots {
-		for i := range slot[:cap(slot)] {
-			slot[:cap(slot)][i] = -7 - place
+	for place, list := range lists {
+		for i := range list[:cap(list)] {
+			list[:cap(list)][i] = -7 - place
 		}
 	}
-	for place, slot := range c.Slots {
-		for _, key := range slot[:cap(slot)] {
-			if key != -7-place {
-				t.Fatalf("two slots of a result of %s share memory", name)
+	for place, list := range lists {
+		for _, number := range list[:cap(list)] {
+			if number != -7-place {
+				t.Fatalf("two lists of a result of %s share memory", name)
 			}
 		}
 	}
-	slots := c.Slots[:cap(c.Slots)]
-	for i := range slots {
-		slots[i] = []int{-7}
+	all := lists[:cap(lists)]
+	for i := range all {
+		all[i] = []int{-7}
 	}
 }
 
@@ -865,7 +865,7 @@ func checkCacheApart(t *testing.T, name string, c impl.Cache, of func(impl.Cache
 	keys, slots := slices.Clone(l.keys), copyOfCache(cacheOf(0, l.slots...))
 	got, another := of(l.cache), of(l.cache)
 	want := copyOfCache(another)
-	spoilCache(t, name, got)
+	spoilLists(t, name, got.Slots)
 	checkCache(t, "another result of "+name, another, want)
 	checkNumbers(t, "the memory of the keys of "+name, l.keys, keys)
 	checkCache(t, "the memory of the slots of "+name, cacheOf(0, l.slots...), slots)
