@@ -29,6 +29,13 @@ func (e groupElement) factor() groupElement {
 	return 1 + (7*e+3)%(Group-1)
 }
 
+// signedWith reports whether a signature is the product of an element and the secret of a public key. Products of
+// numbers that are out of range are 0 and would be equal.
+func (e groupElement) signedWith(public int, sign int) bool {
+	product := groupElement(sign).times(Base)
+	return product != 0 && product == groupElement(public).times(e)
+}
+
 // PublicOf returns the public key of a secret.
 func PublicOf(secret int) int {
 	return int(groupElement(secret).times(Base))
